@@ -48,3 +48,23 @@ func (v View[T]) Swap(agent int, at int, old T, value T) (bool, api.Errno) {
 	*word = v.write(value)
 	return true, api.OK
 }
+
+// Peek is the value at place at, for what is told of the words outside any agent: no step is counted.
+func (v View[T]) Peek(at int) (T, api.Errno) {
+	word, code := v.arena.word(at)
+	if code != api.OK {
+		var none T
+		return none, code
+	}
+	return v.read(*word), api.OK
+}
+
+// Poke makes the word at place at stand for value, for what is laid out ahead of any agent: no step is counted.
+func (v View[T]) Poke(at int, value T) api.Errno {
+	word, code := v.arena.word(at)
+	if code != api.OK {
+		return code
+	}
+	*word = v.write(value)
+	return api.OK
+}

@@ -1,6 +1,7 @@
 package arena_test
 
 import (
+	"math"
 	"testing"
 
 	"gneiss/api"
@@ -100,4 +101,61 @@ func TestViewRefuses(t *testing.T) {
 	wantSteps(t, a, 0, 0)
 	wantWord(t, a, 0, 0)
 	wantWord(t, a, 1, 0)
+}
+
+func TestViewPeekAndPokeAreNoSteps(t *testing.T) {
+	a := newArena(t, 3, 2)
+	view := arena.ViewOf(a, readTagged, tagged.word)
+	if code := view.Poke(1, tagged{3, 7}); code != api.OK {
+		t.Errorf("Poke = %d", code)
+	}
+	if got, code := view.Peek(1); got != (tagged{3, 7}) || code != api.OK {
+		t.Errorf("Peek = %v, %d", got, code)
+	}
+	if got, code := view.Peek(2); got != (tagged{}) || code != api.OK {
+		t.Errorf("Peek = %v, %d", got, code)
+	}
+	wantSteps(t, a, 0, 0)
+	wantWord(t, a, 0, 0)
+	wantWord(t, a, 1, 307)
+	wantWord(t, a, 2, 0)
+}
+
+func wantPeekRefused(t *testing.T, view arena.View[tagged], at int, want api.Errno) {
+	t.Helper()
+	if got, code := view.Peek(at); got != (tagged{}) || code != want {
+		t.Errorf("Peek(%d) = %v, %d; want %d", at, got, code, want)
+	}
+	if code := view.Poke(at, tagged{1, 1}); code != want {
+		t.Errorf("Poke(%d) = %d; want %d", at, code, want)
+	}
+}
+
+func TestViewPeekAndPokeRefuse(t *testing.T) {
+	a := newArena(t, 2, 2)
+	view := arena.ViewOf(a, readTagged, tagged.word)
+	for _, at := range []int{math.MinInt, -1, 2, 3, math.MaxInt} {
+		wantPeekRefused(t, view, at, api.ErrArenaPlace)
+	}
+	wantPeekRefused(t, arena.View[tagged]{}, 0, api.ErrNil)
+	wantPeekRefused(t, arena.ViewOf(nil, readTagged, tagged.word), -1, api.ErrNil)
+	wantPeekRefused(t, arena.ViewOf(a, nil, tagged.word), 0, api.ErrNil)
+	wantPeekRefused(t, arena.ViewOf(&arena.Arena{}, readTagged, tagged.word), 0, api.ErrArenaPlace)
+	wantWord(t, a, 0, 0)
+	wantWord(t, a, 1, 0)
+}
+
+func TestHasAgent(t *testing.T) {
+	for agents := 1; agents <= api.MaxAgents; agents++ {
+		a := newArena(t, 1, agents)
+		for _, agent := range []int{math.MinInt, -1, 0, agents - 1, agents, agents + 1, math.MaxInt} {
+			if got, want := a.HasAgent(agent), agent == 0 || agent == agents-1; got != want {
+				t.Errorf("of %d agents: HasAgent(%d) = %v", agents, agent, got)
+			}
+		}
+	}
+	var none *arena.Arena
+	if none.HasAgent(0) || (&arena.Arena{}).HasAgent(0) {
+		t.Error("there is an agent where there is none")
+	}
 }
