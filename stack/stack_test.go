@@ -227,6 +227,68 @@ func TestP5_1KeepsToItsWords(t *testing.T) {
 	}
 }
 
+func TestNewFull(t *testing.T) {
+	for _, cap := range []int{1, 2, 3, 256, 999, 1000} {
+		a := newArena(t, room(cap)+2, 2)
+		fill(a, func(int) int { return 77 })
+		before := stepsOf(a)
+		s, code := stack.NewFull(a, 1, cap)
+		if s == nil || code != api.OK {
+			t.Fatalf("NewFull(1, %d) = %v, %d", cap, s, code)
+		}
+		wantSteps(t, a, before)
+		all := make([]int, cap)
+		for v := range all {
+			all[v] = v
+			wantBegin(t, s, 1, api.OpPush, v, api.ErrStackValue)
+		}
+		wantItems(t, s, all...)
+		pop(t, s, 0, all...)
+		popNothing(t, s, 0)
+		push(t, s, 1, cap-1)
+		wantItems(t, s, cap-1)
+		for _, at := range []int{0, room(cap) + 1} {
+			if word, _ := a.Load(0, at); word != 77 {
+				t.Errorf("cap %d: word %d is %d", cap, at, word)
+			}
+		}
+	}
+	if s, code := stack.NewFull(nil, 0, 1); s != nil || code != api.ErrNil {
+		t.Errorf("NewFull of nil = %v, %d", s, code)
+	}
+	a := newArena(t, 2008, 1)
+	for _, at := range [][2]int{{0, 0}, {0, -1}, {0, 1001}, {1, 1000}, {-1, 1}, {math.MaxInt, 1}, {0, math.MaxInt}} {
+		if s, code := stack.NewFull(a, at[0], at[1]); s != nil || code != api.ErrStackSize {
+			t.Errorf("NewFull(%d, %d) = %v, %d", at[0], at[1], s, code)
+		}
+	}
+}
+
+func TestHasItems(t *testing.T) {
+	a, s := fitted(t, 3, 2)
+	for range 2 {
+		if s.HasItems() {
+			t.Error("an empty one has items")
+		}
+		push(t, s, 1, 2, 0)
+		before := stepsOf(a)
+		if !s.HasItems() {
+			t.Error("it has no items")
+		}
+		wantSteps(t, a, before)
+		pop(t, s, 0, 0)
+		if !s.HasItems() {
+			t.Error("it has no item")
+		}
+		pop(t, s, 0, 2)
+	}
+	var none *stack.Stack
+	var bare stack.Stack
+	if none.HasItems() || bare.HasItems() {
+		t.Error("nothing has items")
+	}
+}
+
 func TestP5_1SideBySide(t *testing.T) {
 	const cap = 9
 	a := newArena(t, 3*room(cap), 2)

@@ -44,6 +44,14 @@ func (w words) clear() {
 	w.tops.Poke(w.base, top{})
 }
 
+func (w words) fill() {
+	for number := range w.cap - 1 {
+		w.links.Poke(w.placeOf(linkTo(number)), linkTo(number+1))
+	}
+	w.links.Poke(w.placeOf(linkTo(w.cap-1)), nowhere)
+	w.tops.Poke(w.base, top{item: linkTo(0)})
+}
+
 func (w words) peekTop() link {
 	seen, _ := w.tops.Peek(w.base)
 	return seen.item

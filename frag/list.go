@@ -1,0 +1,52 @@
+package frag
+
+import (
+	"gneiss/api"
+	"gneiss/arena"
+	"gneiss/stack"
+)
+
+// list is the free fragments. They stand in layer 5 stacks, each of which has room for stack.MaxCap of them: fragment
+// f in stack f / stack.MaxCap, as number f % stack.MaxCap.
+type list struct {
+	stacks []*stack.Stack
+}
+
+// newList has all fragments from 0 to count - 1.
+func newList(a *arena.Arena, base int, count int) list {
+	var l list
+	for count > 0 {
+		part := min(count, stack.MaxCap)
+		s, _ := stack.NewFull(a, base, part)
+		l.stacks = append(l.stacks, s)
+		base, count = base+stack.Room(part), count-part
+	}
+	return l
+}
+
+// take takes one out for the agent, and tells whether there was one; if there is none, no step of the agent is done.
+func (l list) take(agent int) (int, bool) {
+	for i, s := range l.stacks {
+		if s.HasItems() {
+			return i*stack.MaxCap + perform(s, agent, api.OpPop, 0), true
+		}
+	}
+	return 0, false
+}
+
+// put puts f in for the agent.
+func (l list) put(agent int, f int) {
+	perform(l.stacks[f/stack.MaxCap], agent, api.OpPush, f%stack.MaxCap)
+}
+
+// perform does a whole operation of the agent; it ends, since nobody else steps meanwhile.
+func perform(s *stack.Stack, agent int, op int, v int) int {
+	if s.Begin(agent, op, v) != api.OK {
+		return 0
+	}
+	for {
+		if done, value, _, code := s.Step(agent); done || code != api.OK {
+			return value
+		}
+	}
+}
