@@ -347,6 +347,47 @@ func TestP6_2TheOneThatIsFreeIsGiven(t *testing.T) {
 	}
 }
 
+func TestHasAgent(t *testing.T) {
+	for _, agents := range []int{1, 3, 12} {
+		_, p := fitted(t, 2, agents)
+		for _, agent := range []int{math.MinInt, -1, 0, agents - 1, agents, 12, 1 << 32, math.MaxInt} {
+			if got, want := p.HasAgent(agent), agent == 0 || agent == agents-1; got != want {
+				t.Errorf("of %d agents: HasAgent(%d) = %v", agents, agent, got)
+			}
+		}
+	}
+	var none *frag.Pool
+	if none.HasAgent(0) || (&frag.Pool{}).HasAgent(0) {
+		t.Error("nothing has an agent")
+	}
+}
+
+func TestHasFree(t *testing.T) {
+	for _, count := range []int{1, 2, 999, 1000, 1001, 2000} {
+		a, p := fitted(t, count, 2)
+		for free := count; free >= 0; free-- {
+			before := stepsOf(a)
+			for _, n := range []int{math.MinInt, -1, 0, free - 1, free, free + 1, math.MaxInt} {
+				if got, want := p.HasFree(n), n <= free; got != want {
+					t.Fatalf("of %d, %d are free: HasFree(%d) = %v", count, free, n, got)
+				}
+			}
+			wantSteps(t, a, before)
+			if free > 0 {
+				alloc(t, p, free%2)
+			}
+		}
+		wantFree(t, p, 1, count-1, api.OK)
+		if !p.HasFree(1) || p.HasFree(2) {
+			t.Errorf("of %d, one is free: HasFree(1) = %v, HasFree(2) = %v", count, p.HasFree(1), p.HasFree(2))
+		}
+	}
+	var none *frag.Pool
+	if none.HasFree(0) || none.HasFree(1) || (&frag.Pool{}).HasFree(1) {
+		t.Error("nothing has a free fragment")
+	}
+}
+
 func TestP6_2AgentsThatAreNone(t *testing.T) {
 	for _, agents := range []int{1, 3, 12} {
 		a, p := fitted(t, 3, agents)

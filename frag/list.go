@@ -24,6 +24,14 @@ func newList(a *arena.Arena, base int, count int) list {
 	return l
 }
 
+// has tells whether there are at least n; no more than n are gone over.
+func (l list) has(n int) bool {
+	for _, s := range l.stacks {
+		n -= s.Count(n)
+	}
+	return n <= 0
+}
+
 // take takes one out for the agent, and tells whether there was one; if there is none, no step of the agent is done.
 func (l list) take(agent int) (int, bool) {
 	for i, s := range l.stacks {

@@ -289,6 +289,27 @@ func TestHasItems(t *testing.T) {
 	}
 }
 
+func TestCount(t *testing.T) {
+	a, s := fitted(t, 5, 2)
+	for held := range 6 {
+		before := stepsOf(a)
+		for _, most := range []int{math.MinInt, -1, 0, 1, 2, 3, 4, 5, 6, math.MaxInt} {
+			if got, want := s.Count(most), max(0, min(held, most)); got != want {
+				t.Errorf("of %d: Count(%d) = %d; want %d", held, most, got, want)
+			}
+		}
+		wantSteps(t, a, before)
+		if held < 5 {
+			push(t, s, 1, held)
+		}
+	}
+	var none *stack.Stack
+	var bare stack.Stack
+	if none.Count(1) != 0 || bare.Count(1) != 0 {
+		t.Error("nothing has items")
+	}
+}
+
 func TestP5_1SideBySide(t *testing.T) {
 	const cap = 9
 	a := newArena(t, 3*room(cap), 2)
