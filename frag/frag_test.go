@@ -279,10 +279,22 @@ func TestP6_1KeepsToItsWords(t *testing.T) {
 		}
 		for at := range a.Words() {
 			word, _ := a.Load(0, at)
-			if (at < base || at >= base+room(count)) && word != mark(at) {
+			if (at < base || at >= base+frag.Room(count)) && word != mark(at) {
 				t.Fatalf("count %d: word %d is %d; it was %d", count, at, word, mark(at))
 			}
 		}
+	}
+}
+
+// A pool never lies in more words than New asks for.
+func TestP6_1RoomIsWithinItsWords(t *testing.T) {
+	for count := 1; count <= 2000; count++ {
+		if got := frag.Room(count); got < api.FragWords*count || got > room(count) {
+			t.Fatalf("Room(%d) = %d; New asks for %d", count, got, room(count))
+		}
+	}
+	for _, count := range []int{math.MinInt, -1, 0, math.MaxInt} {
+		frag.Room(count)
 	}
 }
 

@@ -24,6 +24,15 @@ func newList(a *arena.Arena, base int, count int) list {
 	return l
 }
 
+// listRoom is how many words the list of count fragments lies in.
+func listRoom(count int) int {
+	room := count / stack.MaxCap * stack.Room(stack.MaxCap)
+	if rest := count % stack.MaxCap; rest > 0 {
+		room += stack.Room(rest)
+	}
+	return room
+}
+
 // has tells whether there are at least n; no more than n are gone over.
 func (l list) has(n int) bool {
 	for _, s := range l.stacks {

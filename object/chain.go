@@ -9,21 +9,21 @@ const (
 	perFrag = api.FragWords - 1
 )
 
-// fragments is how many fragments an object of n fields lies in: all fields but one are perFrag to a fragment, and one
-// more is in the last header's word.
-func fragments(n int) int {
+// Takes is how many fragments an object of n fields lies in: all fields but one are perFrag to a fragment, and one more
+// is in the last header's word.
+func Takes(n int) int {
 	return max(1, (n-1+perFrag-1)/perFrag)
 }
 
-// mostFragments is how many fragments must be free for an object of n fields to be made: chapter 8's own number, which
-// the chain never takes more than.
-func mostFragments(n int) int {
+// Needs is how many fragments must be free for an object of n fields to be made: chapter 8's own number, which the chain
+// never takes more than.
+func Needs(n int) int {
 	return 1 + (n+5)/6
 }
 
 // placeOf is where the field i of an object of n fields lies: so many hops behind its first fragment, in that word.
 func placeOf(i int, n int) (int, int) {
-	hops := min(i/perFrag, fragments(n)-1)
+	hops := min(i/perFrag, Takes(n)-1)
 	return hops, (header + 1 + i - hops*perFrag) % api.FragWords
 }
 

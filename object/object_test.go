@@ -559,4 +559,11 @@ func TestFragmentsOfAnObject(t *testing.T) {
 			t.Errorf("an object of %d fields takes %d fragments; want %d", n, took, want)
 		}
 	}
+	for n := range object.MaxSize + 1 {
+		b := bothOf(t, 20)
+		b.make(0, n)
+		if took := len(b.p.Used()); took != object.Takes(n) || need(n) != object.Needs(n) {
+			t.Errorf("an object of %d fields takes %d fragments; Takes = %d, Needs = %d", n, took, object.Takes(n), object.Needs(n))
+		}
+	}
 }
