@@ -157,6 +157,46 @@ func TestP9_2TheGreatestHeap(t *testing.T) {
 	}
 }
 
+// A number stands for one cell, even when that is gone.
+func TestP9_2NoNumberIsGivenTwice(t *testing.T) {
+	b := bothOf(t, 600)
+	last := 0
+	for i := range 300 {
+		ref := b.make(i%agents, kinds[i%len(kinds)], 1)
+		if ref <= last {
+			t.Fatalf("%d was made behind %d", ref, last)
+		}
+		b.free(0, b.refs()[i%len(b.refs())])
+		last = ref
+		if i%3 == 0 {
+			last = b.make(0, api.CellInts, 0)
+			b.free(1, last)
+		}
+	}
+	b.wantSame()
+}
+
+// Check refuses what Make refuses, but for the room.
+func TestCheck(t *testing.T) {
+	b := bothOf(t, 512)
+	for _, kind := range append(slices.Clone(noKinds), kinds...) {
+		for _, class := range []int{-1, 0, 11} {
+			for _, n := range []int{-1, 0, 1, 2, 64, 65, 90, 1000, 1001} {
+				want := b.h.Check(kind, class, n)
+				ref, code := b.h.Make(0, kind, class, n)
+				if code != want && (code != api.ErrHeapFull || want != api.OK) || want == api.OK && !isSize(kind, n) {
+					t.Errorf("Check(%d, %d, %d) = %d; Make = %d", kind, class, n, want, code)
+				}
+				b.h.Free(0, ref)
+			}
+		}
+	}
+	var none *heap.Heap
+	if code := none.Check(api.CellInts, 0, 1); code != api.ErrNil {
+		t.Errorf("Check of nil = %d", code)
+	}
+}
+
 // A heap that is full but for one array is made full again and again.
 func TestSizesOneArrayThatComesAndGoes(t *testing.T) {
 	b := bothOf(t, api.MaxWords)

@@ -8,8 +8,8 @@ const (
 	beside = 16
 )
 
-// charge is what a cell of n words takes of the heap's room.
-func charge(n int) int {
+// Charge is what a cell of n words takes of the heap's room.
+func Charge(n int) int {
 	return n + beside
 }
 
@@ -23,7 +23,7 @@ func roomOf(words int) int {
 func fragmentsFor(room int) int {
 	count := 0
 	for n := range object.MaxSize + 1 {
-		if left := room - charge(n); left >= 0 {
+		if left := room - Charge(n); left >= 0 {
 			count = max(count, mostTaken(left)+object.Needs(n))
 		}
 	}
@@ -35,7 +35,7 @@ func fragmentsFor(room int) int {
 func mostTaken(charged int) int {
 	taken := 0
 	for n := range object.MaxSize + 1 {
-		taken = max(taken, charged*object.Takes(n)/charge(n))
+		taken = max(taken, charged*object.Takes(n)/Charge(n))
 	}
 	return taken
 }

@@ -1,6 +1,7 @@
 package heap
 
 import (
+	"slices"
 	"testing"
 
 	"gneiss/api"
@@ -22,7 +23,7 @@ func TestP9_2EachSizeOfHeapIsShared(t *testing.T) {
 			t.Fatalf("%d words: room %d, a half of %d words for arrays", words, room, half)
 		}
 		for n := range object.MaxSize + 1 {
-			if taken[room-charge(n)]+object.Needs(n) > count {
+			if taken[room-Charge(n)]+object.Needs(n) > count {
 				t.Fatalf("%d words: an object of %d fields may find too few of %d fragments", words, n, count)
 			}
 		}
@@ -34,7 +35,7 @@ func mostTakenExactly(most int) []int {
 	taken := make([]int, most+1)
 	for charged := range taken {
 		for n := range min(object.MaxSize+1, charged-beside+1) {
-			taken[charged] = max(taken[charged], taken[charged-charge(n)]+object.Takes(n))
+			taken[charged] = max(taken[charged], taken[charged-Charge(n)]+object.Takes(n))
 		}
 	}
 	return taken
@@ -58,13 +59,14 @@ func TestTable(t *testing.T) {
 	if item, has := items.find(2); item != "" || has || len(items.numbers()) != 2 {
 		t.Errorf("find(2) = %q, %v; numbers() = %v", item, has, items.numbers())
 	}
-	if number := items.add("d"); number != 2 {
-		t.Errorf("the number that was given back is 2; add = %d", number)
+	items.remove(3)
+	if number := items.add("d"); number != 4 {
+		t.Errorf("3 were given, and none is given twice; add = %d", number)
 	}
-	if number := items.add("e"); number != 4 {
-		t.Errorf("add = %d; want 4", number)
+	if item, has := items.find(4); item != "d" || !has || !slices.Equal(items.numbers(), []int{1, 4}) {
+		t.Errorf("find(4) = %q, %v; numbers() = %v", item, has, items.numbers())
 	}
-	if item, has := items.find(2); item != "d" || !has {
-		t.Errorf("find(2) = %q, %v", item, has)
+	if item, has := items.find(3); item != "" || has {
+		t.Errorf("find(3) = %q, %v", item, has)
 	}
 }

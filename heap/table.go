@@ -1,54 +1,57 @@
 package heap
 
-// table is a row of items, numbered from 1 on. The number of one that was removed is given again, so that the numbers
-// stay as small as the most items that were there at one time.
+import (
+	"cmp"
+	"slices"
+)
+
+// table is a row of items, numbered from 1 on as they come. No number is given twice, so that one stands for its item
+// alone, even when that is gone.
 type table[T any] struct {
-	places []place[T]
-	spare  []int // the numbers that stand for no item
+	rows []numbered[T] // their numbers rise
+	last int           // the number that was given last
 }
 
-type place[T any] struct {
-	item  T
-	taken bool
+type numbered[T any] struct {
+	number int
+	item   T
 }
 
 // add is the number that the item has from now on.
 func (t *table[T]) add(item T) int {
-	if len(t.spare) == 0 {
-		t.places = append(t.places, place[T]{item: item, taken: true})
-		return len(t.places)
-	}
-	last := len(t.spare) - 1
-	number := t.spare[last]
-	t.spare = t.spare[:last]
-	t.places[number-1] = place[T]{item: item, taken: true}
-	return number
+	t.last++
+	t.rows = append(t.rows, numbered[T]{number: t.last, item: item})
+	return t.last
 }
 
 // find is the item of that number, and whether there is one.
 func (t *table[T]) find(number int) (T, bool) {
-	if number < 1 || number > len(t.places) {
+	at, has := t.place(number)
+	if !has {
 		var none T
 		return none, false
 	}
-	at := t.places[number-1]
-	return at.item, at.taken
+	return t.rows[at].item, true
 }
 
 func (t *table[T]) remove(number int) {
-	if _, has := t.find(number); has {
-		t.places[number-1] = place[T]{}
-		t.spare = append(t.spare, number)
+	if at, has := t.place(number); has {
+		t.rows = slices.Delete(t.rows, at, at+1)
 	}
 }
 
 // numbers is those of all items, rising.
 func (t *table[T]) numbers() []int {
 	var numbers []int
-	for i, at := range t.places {
-		if at.taken {
-			numbers = append(numbers, i+1)
-		}
+	for _, row := range t.rows {
+		numbers = append(numbers, row.number)
 	}
 	return numbers
+}
+
+// place is where the item of that number stands, and whether it does.
+func (t *table[T]) place(number int) (int, bool) {
+	return slices.BinarySearchFunc(t.rows, number, func(row numbered[T], number int) int {
+		return cmp.Compare(row.number, number)
+	})
 }
