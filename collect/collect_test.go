@@ -108,7 +108,7 @@ func (b *both) reached() []int {
 		}
 	}
 	for i := 0; i < len(row); i++ {
-		if c := b.held[row[i]]; c.is.Kind != api.CellInts {
+		if c := b.held[row[i]]; c.is.Kind != api.CellInts && c.is.Kind != api.CellWeak {
 			for _, ref := range c.words {
 				see(ref)
 			}

@@ -26,6 +26,8 @@ func (h *Heap) Step() (bool, api.Errno) {
 	switch h.phase {
 	case api.PhaseMark:
 		h.stepMark()
+	case api.PhaseClear:
+		h.phase = api.PhaseSweep
 	case api.PhaseSweep:
 		h.stepSweep()
 	}
@@ -63,10 +65,10 @@ func (h *Heap) Cycles() int {
 }
 
 // stepMark looks at one thing that is marked. If there is none and all threads have answered, there is none to come:
-// what is not marked by then is unreached.
+// what is not marked by then is unreached, and goes unless it is kept ahead of the next step.
 func (h *Heap) stepMark() {
 	if !h.tracer.look() && h.asked.Done() {
-		h.phase = api.PhaseSweep
+		h.phase = api.PhaseClear
 	}
 }
 

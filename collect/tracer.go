@@ -47,6 +47,17 @@ func (t *tracer) mark(ref int) {
 	}
 }
 
+// isWhite tells whether ref is a cell of the row that is not marked.
+func (t *tracer) isWhite(ref int) bool {
+	place, has := slices.BinarySearch(t.row, ref)
+	return has && t.isWhiteAt(place)
+}
+
+func (t *tracer) isWhiteAt(place int) bool {
+	colour, _ := t.colours.Colour(place)
+	return colour == api.ColourWhite
+}
+
 // markWord marks what the word i of the cell ref names, by steps of that agent.
 func (t *tracer) markWord(agent int, ref int, i int) {
 	if i >= t.refsIn(ref) {
@@ -75,7 +86,7 @@ func (t *tracer) look() bool {
 // sweep frees the next cell of the row, if it is white, and tells whether there are more.
 func (t *tracer) sweep() bool {
 	if t.swept < len(t.row) {
-		if colour, _ := t.colours.Colour(t.swept); colour == api.ColourWhite {
+		if t.isWhiteAt(t.swept) {
 			t.cells.Free(t.agent, t.row[t.swept])
 		}
 		t.swept++
