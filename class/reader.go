@@ -4,6 +4,7 @@ import (
 	"strings"
 
 	"gneiss/api"
+	"gneiss/fault"
 	"gneiss/wire"
 )
 
@@ -19,14 +20,14 @@ type item[T any] func(r *reader) T
 func decode(s string) api.Program {
 	switch {
 	case len(s) > api.MaxBytes:
-		panic(fault{0, api.ErrClassLong})
+		fault.Throw(0, api.ErrClassLong)
 	case !strings.HasPrefix(s, magic):
-		panic(fault{0, api.ErrClassMagic})
+		fault.Throw(0, api.ErrClassMagic)
 	}
 	r := &reader{s, len(magic)}
 	p := r.program()
 	if r.at < len(s) {
-		panic(fault{r.at, api.ErrClassTail})
+		fault.Throw(r.at, api.ErrClassTail)
 	}
 	return p
 }
@@ -45,7 +46,7 @@ func ofWire(code api.Errno) api.Errno {
 func (r *reader) num() int {
 	x, behind, code := wire.GetNum(r.s, r.at)
 	if code != api.OK {
-		panic(fault{r.at, ofWire(code)})
+		fault.Throw(r.at, ofWire(code))
 	}
 	r.at = behind
 	return x
@@ -57,9 +58,9 @@ func (r *reader) upTo(most int, above api.Errno) int {
 	x := r.num()
 	switch {
 	case x < 0:
-		panic(fault{at, api.ErrClassForm})
+		fault.Throw(at, api.ErrClassForm)
 	case x > most:
-		panic(fault{at, above})
+		fault.Throw(at, above)
 	}
 	return x
 }
@@ -68,9 +69,9 @@ func (r *reader) name() string {
 	text, behind, code := wire.GetText(r.s, r.at, api.MaxName)
 	switch {
 	case code != api.OK:
-		panic(fault{r.at, ofWire(code)})
+		fault.Throw(r.at, ofWire(code))
 	case !isName(text):
-		panic(fault{r.at, api.ErrClassName})
+		fault.Throw(r.at, api.ErrClassName)
 	}
 	r.at = behind
 	return text

@@ -4,6 +4,7 @@ import (
 	"strings"
 
 	"gneiss/api"
+	"gneiss/fault"
 	"gneiss/wire"
 )
 
@@ -18,7 +19,7 @@ func encode(p api.Program) string {
 	visit(func(x part) {
 		bytes.WriteString(bytesOf(x))
 		if bytes.Len() > api.MaxBytes {
-			panic(fault{code: api.ErrClassLong})
+			fault.Throw(0, api.ErrClassLong)
 		}
 	}).program(p)
 	return bytes.String()
@@ -26,20 +27,20 @@ func encode(p api.Program) string {
 
 func checkCount(x part) {
 	if x.kind == partCount && x.number > x.most {
-		panic(fault{code: api.ErrClassMany})
+		fault.Throw(0, api.ErrClassMany)
 	}
 }
 
 func checkName(x part) {
 	if x.kind == partName && !isName(x.name) {
-		panic(fault{code: api.ErrClassName})
+		fault.Throw(0, api.ErrClassName)
 	}
 }
 
 func checkNumber(x part) {
 	isMisfit := x.kind == partSize && (x.number < 0 || x.number > x.most)
 	if isMisfit || wire.PutNum(x.number) == "" {
-		panic(fault{code: api.ErrClassForm})
+		fault.Throw(0, api.ErrClassForm)
 	}
 }
 
