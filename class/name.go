@@ -4,7 +4,8 @@ import (
 	"gneiss/api"
 )
 
-func isName(s string) bool {
+// IsName tells whether s is a name.
+func IsName(s string) bool {
 	if s == "" || len(s) > api.MaxName || isDigit(s[0]) {
 		return false
 	}

@@ -70,7 +70,7 @@ func (r *reader) name() string {
 	switch {
 	case code != api.OK:
 		fault.Throw(r.at, ofWire(code))
-	case !isName(text):
+	case !IsName(text):
 		fault.Throw(r.at, api.ErrClassName)
 	}
 	r.at = behind

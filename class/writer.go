@@ -32,7 +32,7 @@ func checkCount(x part) {
 }
 
 func checkName(x part) {
-	if x.kind == partName && !isName(x.name) {
+	if x.kind == partName && !IsName(x.name) {
 		fault.Throw(0, api.ErrClassName)
 	}
 }

@@ -266,3 +266,25 @@ func BenchmarkCheck(b *testing.B) {
 		code.Check(p, mainClass, 0)
 	}
 }
+
+func TestP16_2AProgramThatIsKnownToBeTaken(t *testing.T) {
+	r := random(162)
+	for range 3000 {
+		p := r.program()
+		class, method := 9+r.next(10), r.next(6)-1
+		if _, _, e := load.Load(p); e != api.OK {
+			continue
+		}
+		at, e := code.CheckLoaded(p, class, method)
+		if wantAt, want := code.Check(p, class, method); at != wantAt || e != want {
+			t.Fatalf("CheckLoaded(%+v, %d, %d) = %d, %d; want %d, %d", p, class, method, at, e, wantAt, want)
+		}
+	}
+	// Whether layer 15 takes it is not asked.
+	p := program(api.Ins{}, api.Ins{Op: api.InsReturn})
+	p.Main = 99
+	if at, e := code.CheckLoaded(p, mainClass, 0); at != 0 || e != api.OK {
+		t.Errorf("%d, %d", at, e)
+	}
+	wantChecked(t, p, mainClass, 0, 0, api.ErrCodeArgs)
+}

@@ -26,3 +26,12 @@ func Caught[T any](do func() T) (answer T, at int, code api.Errno) {
 	}()
 	return do(), 0, api.OK
 }
+
+// Found is the fault that do throws, if it throws one.
+func Found(do func()) (at int, code api.Errno) {
+	_, at, code = Caught(func() struct{} {
+		do()
+		return struct{}{}
+	})
+	return at, code
+}

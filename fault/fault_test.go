@@ -73,3 +73,22 @@ func TestNoOtherPanicGetsOut(t *testing.T) {
 		}
 	}
 }
+
+func TestWhatIsThrownIsFound(t *testing.T) {
+	isDone := false
+	if at, code := fault.Found(func() { isDone = true }); at != 0 || code != api.OK || !isDone {
+		t.Errorf("%d, %d, %v", at, code, isDone)
+	}
+	for _, at := range []int{0, -3, math.MaxInt} {
+		found, code := fault.Found(func() {
+			deep(9, func() { fault.Throw(at, api.ErrVerifyMap) })
+			t.Error("it goes on")
+		})
+		if found != at || code != api.ErrVerifyMap {
+			t.Errorf("%d, %d; want %d", found, code, at)
+		}
+	}
+	if at, code := fault.Found(func() { panic("other") }); at != 0 || code != api.OK {
+		t.Errorf("%d, %d", at, code)
+	}
+}
