@@ -127,38 +127,44 @@ func TestP19_2WhatIsWrittenIsRead(t *testing.T) {
 	}
 }
 
+// spoiltText is a program's text that was changed in one or two places.
+func (r *random) spoiltText() string {
+	const odd = "0 1\n-a_9\r\x00+"
+	text := []byte(plainText(r.program()))
+	for range 1 + r.next(2) {
+		at := r.next(len(text))
+		switch r.next(4) {
+		case 0:
+			text[at] = odd[r.next(len(odd))]
+		case 1:
+			text = slices.Insert(text, at, odd[r.next(len(odd))])
+		case 2:
+			text = slices.Delete(text, at, at+1)
+		default:
+			all := strings.SplitAfter(string(text), "\n")
+			i, j := r.next(len(all)), r.next(len(all))
+			all[i], all[j] = all[j], all[i]
+			text = []byte(strings.Join(all, ""))
+		}
+		if len(text) == 0 {
+			text = []byte("x")
+		}
+	}
+	return string(text)
+}
+
 // TestP19_2WhatIsReadIsWrittenSo: a text that is taken is the one that its program has.
 func TestP19_2WhatIsReadIsWrittenSo(t *testing.T) {
-	const odd = "0 1\n-a_9\r\x00+"
 	r := random(191)
 	seen := map[api.Errno]int{}
 	for range 20000 {
-		text := []byte(plainText(r.program()))
-		for range 1 + r.next(2) {
-			at := r.next(len(text))
-			switch r.next(4) {
-			case 0:
-				text[at] = odd[r.next(len(odd))]
-			case 1:
-				text = slices.Insert(text, at, odd[r.next(len(odd))])
-			case 2:
-				text = slices.Delete(text, at, at+1)
-			default:
-				all := strings.SplitAfter(string(text), "\n")
-				i, j := r.next(len(all)), r.next(len(all))
-				all[i], all[j] = all[j], all[i]
-				text = []byte(strings.Join(all, ""))
-			}
-			if len(text) == 0 {
-				text = []byte("x")
-			}
-		}
-		p, line, e := asm.Parse(string(text))
+		text := r.spoiltText()
+		p, line, e := asm.Parse(text)
 		seen[e]++
 		switch {
-		case e != api.OK && (!reflect.DeepEqual(p, api.Program{}) || line < 1 || line > strings.Count(string(text), "\n")+2):
+		case e != api.OK && (!reflect.DeepEqual(p, api.Program{}) || line < 1 || line > strings.Count(text, "\n")+2):
 			t.Fatalf("%q: %v, %d, %d", text, p, line, e)
-		case e == api.OK && (line != 0 || plainText(p) != strings.TrimSuffix(string(text), "\n")+"\n"):
+		case e == api.OK && (line != 0 || plainText(p) != strings.TrimSuffix(text, "\n")+"\n"):
 			t.Fatalf("%q was read as %q", text, plainText(p))
 		}
 	}

@@ -50,6 +50,18 @@ func apart(line int, text string, s shape) entry {
 	return e
 }
 
+// together is the line that apart takes apart into e.
+func together(e entry, s shape) string {
+	words := []string{s.word}
+	if s.hasName {
+		words = append(words, e.name)
+	}
+	for _, number := range slices.Concat(e.numbers, e.counted, e.list) {
+		words = append(words, strconv.Itoa(number))
+	}
+	return strings.Join(words, " ")
+}
+
 func (e entry) throw(code api.Errno) {
 	fault.Throw(e.line, code)
 }

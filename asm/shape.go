@@ -30,6 +30,13 @@ const (
 	methodFlags = staticFlag
 )
 
+func flagIf(is bool, flag int) int {
+	if is {
+		return flag
+	}
+	return 0
+}
+
 // A span is the least and the most that a number may be.
 type span struct {
 	least int
