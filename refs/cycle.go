@@ -15,10 +15,10 @@ func (h *Heap) Cycle() ([]int, []int, api.Errno) {
 		return nil, nil, api.ErrNil
 	}
 	h.begin()
-	h.mark(h.queue.all())
+	h.mark(h.queue.All())
 	cleared := h.clear()
 	queued := h.takeFinals()
-	h.queue.add(queued...)
+	h.queue.Add(queued...)
 	h.mark(slices.Values(queued))
 	h.sweep()
 	return cleared, queued, api.OK
