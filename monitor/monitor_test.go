@@ -415,6 +415,70 @@ func TestP20_1TablesAreTheirOwn(t *testing.T) {
 	wantStates(t, b, api.ThreadReady, api.ThreadWaiting)
 }
 
+func TestLeaveAll(t *testing.T) {
+	m := newTable(t, 3)
+	leaveAll := func(thread int, want api.Errno) {
+		t.Helper()
+		if code := m.LeaveAll(thread); code != want {
+			t.Fatalf("LeaveAll(%d) = %d; want %d", thread, code, want)
+		}
+	}
+	for _, obj := range objs {
+		enterDeep(t, m, 0, obj, 3)
+	}
+	enterDeep(t, m, 1, 100, 2)
+	wantEnter(t, m, 1, 7, false)
+	for _, thread := range []int{-1, 3, math.MinInt, math.MaxInt} {
+		leaveAll(thread, api.ErrMonitorThread)
+	}
+	leaveAll(2, api.OK)
+	wantOwner(t, m, 7, 0, 3)
+	leaveAll(0, api.OK)
+	for _, obj := range objs {
+		wantOwner(t, m, obj, -1, 0)
+	}
+	wantOwner(t, m, 100, 1, 2)
+	wantStates(t, m, api.ThreadReady, api.ThreadEntering, api.ThreadReady)
+	leaveAll(1, api.OK) // it enters still
+	wantOwner(t, m, 100, -1, 0)
+	wantStates(t, m, api.ThreadReady, api.ThreadEntering, api.ThreadReady)
+	wantEnter(t, m, 1, 7, true)
+	wantEnter(t, m, 1, 8, true)
+	mustWait(t, m, 1, 7)
+	leaveAll(1, api.ErrMonitorThread)
+	wantOwner(t, m, 8, 1, 1)
+}
+
+// TestCopy holds that neither goes the other's way, in any of what a table keeps.
+func TestCopy(t *testing.T) {
+	m := newTable(t, 4)
+	enterDeep(t, m, 0, 7, 3)
+	mustWait(t, m, 0, 7)
+	enterDeep(t, m, 1, 7, 2)
+	mustWait(t, m, 1, 7)
+	wantEnter(t, m, 2, 7, true)
+	wantEnter(t, m, 3, 7, false)
+	other := m.Copy()
+	wantStates(t, other, api.ThreadWaiting, api.ThreadWaiting, api.ThreadReady, api.ThreadEntering)
+	wantOwner(t, other, 7, 2, 1)
+	wantNotified(t, other, 2, 7, true, 2)
+	wantEnter(t, other, 2, 8, true)
+	mustLeave(t, other, 2, 7)
+	wantEnter(t, other, 1, 7, true)
+	wantOwner(t, other, 7, 1, 2)
+	wantStates(t, m, api.ThreadWaiting, api.ThreadWaiting, api.ThreadReady, api.ThreadEntering)
+	wantOwner(t, m, 7, 2, 1)
+	wantOwner(t, m, 8, -1, 0)
+	wantNotified(t, m, 2, 7, false, 1)
+	wantEnter(t, m, 2, 9, true)
+	mustLeave(t, m, 2, 7)
+	wantEnter(t, m, 0, 7, true)
+	wantOwner(t, m, 7, 0, 3)
+	wantOwner(t, other, 7, 1, 2)
+	wantOwner(t, other, 9, -1, 0)
+	wantStates(t, other, api.ThreadEntering, api.ThreadReady, api.ThreadReady, api.ThreadEntering)
+}
+
 func TestP20_1ManyMonitors(t *testing.T) {
 	const many = 200_000
 	m := newTable(t, 2)
@@ -447,6 +511,9 @@ func TestR3NoTable(t *testing.T) {
 		}
 	}
 	wantOwner(t, none, 7, 0, 0)
+	if none.LeaveAll(0) != api.ErrNil || none.Copy() != nil {
+		t.Errorf("LeaveAll = %d, Copy = %v", none.LeaveAll(0), none.Copy())
+	}
 }
 
 func TestR1TableWithoutThreads(t *testing.T) {
@@ -455,4 +522,7 @@ func TestR1TableWithoutThreads(t *testing.T) {
 	wantRefused(t, &m, 0, 7, api.ErrMonitorThread)
 	wantOwner(t, &m, 7, -1, 0)
 	wantStates(t, &m, api.ThreadReady)
+	if code := m.Copy().LeaveAll(0); code != api.ErrMonitorThread {
+		t.Errorf("LeaveAll = %d", code)
+	}
 }

@@ -115,10 +115,19 @@ func (p *plain) Notify(thread, obj int, all bool) (int, api.Errno) {
 	return count, api.OK
 }
 
+func (p *plain) LeaveAll(thread int) api.Errno {
+	if p.refused(thread) {
+		return api.ErrMonitorThread
+	}
+	p.deep[thread] = map[int]int{}
+	return api.OK
+}
+
 // Kinds of calls.
 const (
 	callEnter = iota
 	callLeave
+	callLeaveAll
 	callWait
 	callNotify
 	callNotifyAll
@@ -148,6 +157,7 @@ func counted(is bool) int {
 type monitors interface {
 	Enter(thread int, obj int) (bool, api.Errno)
 	Leave(thread int, obj int) api.Errno
+	LeaveAll(thread int) api.Errno
 	Wait(thread int, obj int) api.Errno
 	Notify(thread int, obj int, all bool) (int, api.Errno)
 }
@@ -159,6 +169,8 @@ func (c call) of(m monitors) answer {
 		return answer{counted(is), code}
 	case callLeave:
 		return answer{0, m.Leave(c.thread, c.obj)}
+	case callLeaveAll:
+		return answer{0, m.LeaveAll(c.thread)}
 	case callWait:
 		return answer{0, m.Wait(c.thread, c.obj)}
 	}

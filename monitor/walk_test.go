@@ -73,11 +73,26 @@ func TestP20_1EveryRowOfFewCalls(t *testing.T) {
 // drawn is a call by numbers, Enter more often than others so that monitors are owned.
 func drawn(random *rand.Rand, threads int, objs []int) call {
 	kinds := []int{callEnter, callEnter, callEnter, callLeave, callWait, callNotify, callNotifyAll}
+	if random.Intn(20) == 0 {
+		kinds = []int{callLeaveAll}
+	}
 	thread := random.Intn(threads)
 	if random.Intn(50) == 0 {
 		thread = []int{-1, threads, math.MinInt, math.MaxInt}[random.Intn(4)]
 	}
 	return call{kinds[random.Intn(len(kinds))], thread, objs[random.Intn(len(objs))]}
+}
+
+// parted is the table or a copy of it, while the other one goes some other way.
+func parted(random *rand.Rand, m *monitor.Table, threads int, objs []int) *monitor.Table {
+	other := m.Copy()
+	if random.Intn(2) == 0 {
+		m, other = other, m
+	}
+	for range 20 {
+		drawn(random, threads, objs).of(other)
+	}
+	return m
 }
 
 func TestP20_1LongWalks(t *testing.T) {
@@ -91,6 +106,9 @@ func TestP20_1LongWalks(t *testing.T) {
 			c := drawn(random, threads, objs)
 			if got, want := c.of(m), c.of(p); got != want {
 				t.Fatalf("seed %d, %d: %v answers %v; want %v", seed, i, c, got, want)
+			}
+			if i%50 == 49 {
+				m = parted(random, m, threads, objs)
 			}
 			wantAlike(t, m, p, all, c)
 		}

@@ -42,6 +42,11 @@ func (q *Queue[T]) Take(is func(item T) bool) (T, bool) {
 	return item, true
 }
 
+// Copy is a row of the same items, which goes on by itself.
+func (q *Queue[T]) Copy() Queue[T] {
+	return Queue[T]{slices.Clone(q.items)}
+}
+
 // All is the items in their row.
 func (q *Queue[T]) All() iter.Seq[T] {
 	return slices.Values(q.items)

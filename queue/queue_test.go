@@ -71,3 +71,20 @@ func TestTakesTheFirstOfThose(t *testing.T) {
 	}
 	wantItems(t, &q, 6)
 }
+
+func TestACopyGoesOnByItself(t *testing.T) {
+	var q queue.Queue[int]
+	none := q.Copy()
+	q.Add(1, 2, 3)
+	c := q.Copy()
+	wantItems(t, &none)
+	q.Drop()
+	c.Add(4)
+	q.Add(5)
+	wantItems(t, &q, 2, 3, 5)
+	wantItems(t, &c, 1, 2, 3, 4)
+	c.Drop()
+	c.Take(func(item int) bool { return item == 3 })
+	wantItems(t, &q, 2, 3, 5)
+	wantItems(t, &c, 2, 4)
+}
