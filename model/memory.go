@@ -29,6 +29,7 @@ func refTo(obj int) value {
 type object struct {
 	class    int
 	words    []value
+	holds    bool  // whether any of its words is a ref that holds what it names; a weak reference's doesn't
 	weaks    []int // the weak references to it that are not cleared
 	isQueued bool  // whether it ever was
 }
@@ -59,7 +60,8 @@ func blanks(fields []api.Field) []value {
 
 // add is the number of a new object.
 func (m *memory) add(class int, words []value) int {
-	m.objects = append(m.objects, object{class: class, words: words})
+	holds := class != api.ClassWeak && slices.ContainsFunc(words, func(v value) bool { return v.isRef })
+	m.objects = append(m.objects, object{class: class, words: words, holds: holds})
 	return len(m.objects)
 }
 

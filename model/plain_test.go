@@ -622,3 +622,61 @@ func (m *plain) Queue(obj int) api.Errno {
 	m.queue = append(m.queue, m.things[obj-1])
 	return api.OK
 }
+
+// numbers is those of the things among values, each once, rising.
+func numbers(values []any) []int {
+	var all []int
+	for _, v := range values {
+		if x, is := v.(*thing); is && x != nil {
+			all = append(all, x.number)
+		}
+	}
+	slices.Sort(all)
+	return slices.Compact(all)
+}
+
+// Roots is what is held whatever the things name, each once, rising.
+func (m *plain) Roots() []int {
+	var held []any
+	for _, x := range m.things[:min(7, len(m.things))] {
+		held = append(held, x)
+	}
+	for _, s := range m.strands {
+		if s.state == 5 || s.state == 6 {
+			continue
+		}
+		held = append(held, s.me)
+		for _, c := range s.calls {
+			held = slices.Concat(held, c.locals, c.stack)
+		}
+		if s.state == 1 || s.state == 2 || s.state == 3 {
+			held = append(held, s.of)
+		}
+	}
+	for _, x := range m.queue {
+		held = append(held, x)
+	}
+	return numbers(slices.Concat(held, slices.Concat(m.statics...)))
+}
+
+// Named is what a thing's words name and hold, each once, rising.
+func (m *plain) Named(obj int) []int {
+	if obj < 1 || obj > len(m.things) || m.things[obj-1].class == 10 {
+		return nil
+	}
+	return numbers(m.things[obj-1].words)
+}
+
+func (m *plain) HasWeak(obj int) bool {
+	return slices.ContainsFunc(m.things, func(x *thing) bool {
+		return x.class == 10 && slices.Equal(numbers(x.words), []int{obj})
+	})
+}
+
+func (m *plain) IsFinal(obj int) bool {
+	return obj >= 1 && obj <= len(m.things) && m.isFinal(m.things[obj-1].class)
+}
+
+func (m *plain) WasQueued(obj int) bool {
+	return obj >= 1 && obj <= len(m.things) && m.things[obj-1].queued
+}

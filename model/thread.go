@@ -36,6 +36,11 @@ func (t *thread) copied() *thread {
 	return &c
 }
 
+// isUnderWay tells whether the thread has neither ended nor failed.
+func (t *thread) isUnderWay() bool {
+	return t.state != api.ThreadEnded && t.state != api.ThreadFailed
+}
+
 // told is what is told of a thread in that state.
 func (t *thread) told(state int) api.Thread {
 	f, has := t.top()

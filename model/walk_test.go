@@ -119,6 +119,29 @@ func (x *pair) wantAlikeValues() {
 	}
 }
 
+// wantAlikeHolds holds what a collector asks.
+func (x *pair) wantAlikeHolds() {
+	x.t.Helper()
+	if got, want := rising(x.m.Roots()), x.n.Roots(); !slices.Equal(got, want) {
+		x.t.Fatalf("Roots() = %v; want %v", got, want)
+	}
+	for obj := -1; obj <= x.n.Objects()+1; obj++ {
+		if got, want := rising(x.m.AppendNamed(nil, obj)), x.n.Named(obj); !slices.Equal(got, want) {
+			x.t.Fatalf("AppendNamed(nil, %d) = %v; want %v", obj, got, want)
+		}
+		got := []bool{x.m.HasWeak(obj), x.m.IsFinal(obj), x.m.WasQueued(obj)}
+		if want := []bool{x.n.HasWeak(obj), x.n.IsFinal(obj), x.n.WasQueued(obj)}; !slices.Equal(got, want) {
+			x.t.Fatalf("of %d: a weak one, Final, queued: %v; want %v", obj, got, want)
+		}
+	}
+}
+
+// rising is the numbers in their row, each once.
+func rising(numbers []int) []int {
+	slices.Sort(numbers)
+	return slices.Compact(numbers)
+}
+
 // collect clears and queues, as a collector might, and otherwise.
 func (x *pair) collect(r *random) {
 	x.t.Helper()
@@ -183,9 +206,11 @@ func (x *pair) walk(r *random, most int) {
 			x.part(r)
 			x.wantAlikeWords()
 			x.wantAlikeValues()
+			x.wantAlikeHolds()
 		}
 	}
 	x.wantAlikeWords()
+	x.wantAlikeHolds()
 }
 
 func TestP21_4Walks(t *testing.T) {
